@@ -45,7 +45,7 @@ func (h *heldTeller) add(e api.Event, may bool) api.Errno {
 	if len(h.in(0)) == 256 {
 		return api.ErrFull
 	}
-	h.events, h.state = append(h.events, e), append(h.state, 0)
+	h.events, h.state = append(h.events, bare(e)), append(h.state, 0)
 	return api.OK
 }
 

@@ -39,6 +39,11 @@ func of(stamp int, kind string, l ...api.Field) api.Event {
 // nth is an event that its field tells from others.
 func nth(n int) api.Event { return of(n, "e", whole("n", n)) }
 
+// bare is an event without Session and Seq.
+func bare(e api.Event) api.Event {
+	return api.Event{Stamp: e.Stamp, Kind: e.Kind, Fields: e.Fields}
+}
+
 // like tells whether two lists of events are the same: one NaN is as good as another one, -0 and 0 are two.
 func like(a, b []api.Event) bool {
 	return slices.EqualFunc(a, b, func(x, y api.Event) bool {

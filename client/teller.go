@@ -25,7 +25,7 @@ func NewTeller(nodes int) *Teller {
 	return &Teller{asked: asked{nodes: nodes}}
 }
 
-// Add lets an event wait.
+// Add lets an event wait, without what was handed in as its session and number: both are the teller's to give, when it asks.
 func (t *Teller) Add(e api.Event) api.Errno {
 	if t == nil || event.Check(numbered(e, api.Session{ID: 1})) != api.OK {
 		return api.ErrArg
@@ -33,6 +33,7 @@ func (t *Teller) Add(e api.Event) api.Errno {
 	if len(t.waiting) >= api.MaxQueue {
 		return api.ErrFull
 	}
+	e.Session, e.Seq = 0, 0
 	t.waiting = append(t.waiting, copied(e))
 	return api.OK
 }

@@ -220,15 +220,37 @@ func TestAStampFalls(t *testing.T) {
 	has(t, x, 9, 1, 0, nth(1), nth(3), nth(4))
 }
 
-// What is refused is told as it was added, whatever its Session and Seq are.
-func TestRefusedIsAsItWasAdded(t *testing.T) {
+// What is refused is told as it was added, but without Session and Seq, whatever these were.
+func TestRefusedHasNoSession(t *testing.T) {
+	var want []api.Event
+	for _, e := range may() {
+		want = append(want, bare(e))
+	}
 	x := teller(t, 1, may()...)
 	x.Told(api.Reply{N: 9}, 0)
-	for i := range may() {
-		has(t, x, 9, 0, len(may())-i, may()[:i]...)
+	for i := range want {
+		has(t, x, 9, 0, len(want)-i, want[:i]...)
 		x.Told(api.Reply{Err: api.ErrStamp}, 0)
 	}
-	has(t, x, 9, 0, 0, may()...)
+	has(t, x, 9, 0, 0, want...)
+}
+
+// Nor has it those by which it was asked, in whichever session.
+func TestRefusedHasNoSessionOfTheTeller(t *testing.T) {
+	e := api.Event{Session: 9, Seq: 2, Stamp: 7, Kind: "a", Fields: fields(2)}
+	x := teller(t, 1, nth(1), e, e, e)
+	x.Told(api.Reply{N: 9}, 0)
+	x.Told(api.Reply{N: 1}, 0)
+	asks(t, x, 0, told(t, e, 9, 2))
+	x.Told(api.Reply{Err: api.ErrStamp}, 0)
+	x.Told(api.Reply{Err: api.ErrNone}, 0)
+	has(t, x, 0, 0, 2, bare(e))
+	x.Told(api.Reply{N: 12}, 0)
+	asks(t, x, 0, told(t, e, 12, 1))
+	x.Told(api.Reply{Err: api.ErrStamp}, 0)
+	has(t, x, 12, 0, 1, bare(e), bare(e))
+	x.Told(api.Reply{N: 1}, 0)
+	has(t, x, 12, 1, 0, bare(e), bare(e))
 }
 
 // turns fails, unless a teller of three nodes that asks the node 1 asks those behind an error, by the leads that are told.
